@@ -222,3 +222,47 @@ func TestPennyMore(t *testing.T) { // P3.12
 		t.Error("nobody gets less of more: that is not how pennies are given out")
 	}
 }
+
+// With eighths no part loses a penny when there is one more: so nobody gets two more, whatever stakes they have.
+func TestPennyMoreOfAVoyage(t *testing.T) { // P3.12
+	total := func(d api.ShareDue) int { return d.Boat + d.Nets + d.Crew }
+	each(2000, func(_ *rand.Rand, v api.ShareVoyage) {
+		v.Gross = min(v.Gross, api.ShareSum-1)
+		if share.Check(v) != api.OK {
+			return
+		}
+		more := deep(v)
+		more.Gross++
+		a, b := shares(t, v), shares(t, more)
+		was, is := parts(t, v), parts(t, more)
+		for i := range was {
+			if is[i] < was[i] || is[i] > was[i]+1 {
+				t.Errorf("%v: the parts %v; of a penny more %v", v, was, is)
+			}
+		}
+		for i := range a {
+			if total(b[i]) > total(a[i])+1 {
+				t.Errorf("%v: %v; of a penny more %v", v, a[i], b[i])
+			}
+		}
+	})
+}
+
+func TestPennyMoreByAllEighths(t *testing.T) { // P3.12
+	all := []api.ShareStake{stake("all", 1)}
+	for boat := range 9 {
+		for nets := range 9 - boat {
+			// what is left over repeats itself every eight pence
+			for gross := range 16 {
+				v := api.ShareVoyage{Gross: gross, Boat: boat, Nets: nets, Crew: 8 - boat - nets, Owners: all, Lenders: all, Hands: all}
+				was := parts(t, v)
+				v.Gross++
+				for i, pence := range parts(t, v) {
+					if pence < was[i] || pence > was[i]+1 {
+						t.Errorf("%v: %d of the part %d; before that %d", v, pence, i, was[i])
+					}
+				}
+			}
+		}
+	}
+}
