@@ -1,0 +1,13 @@
+package gut
+
+// sum returns what all values are together, each of them being of so much.
+func sum[T any](of func(T) int, values ...T) int {
+	total := 0
+	for _, x := range values {
+		total += of(x)
+	}
+	return total
+}
+
+// isIn reports whether low <= n <= high.
+func isIn(n, low, high int) bool { return low <= n && n <= high }
