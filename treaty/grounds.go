@@ -70,6 +70,7 @@ func (g grounds) rings() [][]int {
 	all := g.all()
 nations:
 	for nation := range len(g.wishes) {
+		// all lesser numbers are in rings: until it is in one itself, this is the nation to begin with
 		for ringed != all {
 			if ringed[nation] {
 				continue nations
